@@ -433,3 +433,21 @@ func TestPrintSharesNoMemory(t *testing.T) {
 		t.Error("Print answers a piece of a text that was handed in")
 	}
 }
+
+func TestFreshSharesNoMemory(t *testing.T) {
+	bytes := []byte("hello")
+	r := row(text(unsafe.String(&bytes[0], len(bytes))), number(1), anything)
+	a, b := tuple.Fresh(r), tuple.Fresh(r)
+	copy(bytes, "XXXXX")
+	r[1], r[2] = far, odd
+	a[1], a[2] = odd, far
+	if want := row(text("hello"), number(1), anything); !slices.Equal(b, want) {
+		t.Errorf("Fresh shares memory: %+v, want %+v", b, want)
+	}
+	if unsafe.StringData(a[0].S) == unsafe.StringData(b[0].S) {
+		t.Error("two answers of Fresh share a text")
+	}
+	if got := tuple.Fresh(nil); len(got) != 0 {
+		t.Errorf("Fresh of none: %+v", got)
+	}
+}
