@@ -31,6 +31,21 @@ func bigPower(a, n, by int) int {
 	return int(new(big.Int).Exp(big.NewInt(int64(a)), big.NewInt(int64(n)), big.NewInt(int64(by))).Int64())
 }
 
+// M1: what is a number.
+
+func TestIsNumber(t *testing.T) {
+	for a := range prime {
+		if !mod.IsNumber(a) {
+			t.Errorf("IsNumber(%d): got false", a)
+		}
+	}
+	for _, no := range outside {
+		if mod.IsNumber(no) {
+			t.Errorf("IsNumber(%d): got true", no)
+		}
+	}
+}
+
 // M1: Add and Times.
 
 func TestAddAndTimes(t *testing.T) {
