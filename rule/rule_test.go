@@ -131,6 +131,30 @@ func wantFault(t *testing.T, l []api.Rule, who, deed int, r []api.Value, wrong a
 	}
 }
 
+// IsWho and IsDeed tell the numbers for the layers below, too.
+func TestIsWhoAndIsDeed(t *testing.T) {
+	for _, who := range []int{0, 1, 2, 3, 999_999, 1_000_000} {
+		if !rule.IsWho(who) {
+			t.Errorf("IsWho(%d): got false", who)
+		}
+	}
+	for _, no := range noWho {
+		if rule.IsWho(no) {
+			t.Errorf("IsWho(%d): got true", no)
+		}
+	}
+	for _, deed := range []int{api.Put, api.Read, api.Take} {
+		if !rule.IsDeed(deed) {
+			t.Errorf("IsDeed(%d): got false", deed)
+		}
+	}
+	for _, no := range noDeed {
+		if rule.IsDeed(no) {
+			t.Errorf("IsDeed(%d): got true", no)
+		}
+	}
+}
+
 // R1: Check.
 
 func TestCheckTakesRules(t *testing.T) {
