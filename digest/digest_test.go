@@ -230,6 +230,23 @@ func TestTupleTellsFaults(t *testing.T) {
 	}
 }
 
+// P1: Text, by which the layers below make a number of bytes in the same way.
+
+func TestText(t *testing.T) {
+	every := make([]byte, 256)
+	for i := range every {
+		every[i] = byte(i)
+	}
+	for _, s := range []string{"", "0", "\n", "1\n2\n", ":hello", "*,42", "\x00", "\x00\x00", "\xff", "é", string(every), strings.Repeat("\xff", 5_000)} {
+		if got := digest.Text(s); got != inOneGo(s) {
+			t.Errorf("Text(%.40q): got %d, want %d", s, got, inOneGo(s))
+		}
+	}
+	if got := digest.Text(""); got != 7 {
+		t.Errorf("Text of no byte: got %d, want 7", got)
+	}
+}
+
 // P2 and P4 of the whole: nothing that is handed in is written into, nor read behind its
 // length, and what was asked ahead, a fault or not, changes no answer.
 

@@ -335,6 +335,36 @@ func TestPushTellsNumbers(t *testing.T) {
 	}
 }
 
+// Check tells what Push tells of an Ask by itself, for the layers below, too: no Seq is asked.
+func TestCheckTellsOfAnAskByItself(t *testing.T) {
+	wants := func(a api.Ask, want api.Errno) {
+		t.Helper()
+		if err := queue.Check(a); plain.Told(err) != want {
+			t.Errorf("Check(%+v): got %v, want %v", short(a), err, want)
+		}
+	}
+	for _, seq := range []int{math.MinInt, -1, 0, 1, 2, math.MaxInt} {
+		for _, deed := range deeds {
+			wants(ask(0, seq, deed), api.OK)
+			wants(ask(api.MaxNumber, seq, deed), api.OK)
+			for _, who := range noWho {
+				wants(api.Ask{Who: who, Seq: seq, Deed: deed}, api.ErrRange)
+			}
+			for _, c := range faulty() {
+				wants(api.Ask{Who: 1, Seq: seq, Deed: deed, Tuple: c.t}, c.want)
+			}
+		}
+		for _, deed := range noDeed {
+			wants(api.Ask{Who: 1, Seq: seq, Deed: deed}, api.ErrRange)
+		}
+		for _, like := range withAnything() {
+			wants(api.Ask{Seq: seq, Deed: api.Put, Tuple: like}, api.ErrShape)
+			wants(api.Ask{Seq: seq, Deed: api.Read, Tuple: like}, api.OK)
+			wants(api.Ask{Seq: seq, Deed: api.Take, Tuple: like}, api.OK)
+		}
+	}
+}
+
 // Who is bound by another number than Deed is.
 func TestPushTakesAllWhoMayBe(t *testing.T) {
 	for _, who := range []int{0, 1, 2, 3, 4, 30, 31, 999_999, 1_000_000} {

@@ -7,6 +7,7 @@ import (
 	"slices"
 	"strings"
 	"testing"
+	"unsafe"
 
 	"tuplestead/api"
 	"tuplestead/plain"
@@ -152,6 +153,25 @@ func TestIsWhoAndIsDeed(t *testing.T) {
 		if rule.IsDeed(no) {
 			t.Errorf("IsDeed(%d): got true", no)
 		}
+	}
+}
+
+// Fresh is for those who keep rules: nothing of the list that was handed in is left in it.
+func TestFreshSharesNothing(t *testing.T) {
+	for _, l := range [][]api.Rule{nil, {}} {
+		if got := rule.Fresh(l); len(got) != 0 {
+			t.Errorf("Fresh of no rule: got %+v", got)
+		}
+	}
+	bytes := []byte("hello")
+	l := rules(let(api.Put, -1, text(unsafe.String(&bytes[0], len(bytes))), number(3)), forbid(api.Take, 7, anything))
+	want := rules(let(api.Put, -1, text("hello"), number(3)), forbid(api.Take, 7, anything))
+	got := rule.Fresh(l)
+	copy(bytes, "XXXXX")
+	l[0].Like[1], l[1].Like[0] = far, far
+	l[0], l[1] = good, good
+	if !reflect.DeepEqual(got, want) {
+		t.Errorf("Fresh: got %+v, want %+v", got, want)
 	}
 }
 
