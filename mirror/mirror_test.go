@@ -131,18 +131,30 @@ func short(a api.Ask) api.Ask {
 	return a
 }
 
+// says asks for an answer, and that Again has told ahead whether something is done by that.
 func says(t *testing.T, c *mirror.Copy, a api.Ask, want string) {
 	t.Helper()
+	count, mark := c.Mark()
+	again, wrong := c.Again(a)
+	if n, m := c.Mark(); n != count || m != mark || wrong != nil {
+		t.Errorf("Again(%+v): got %v, and %d %d, was %d %d", short(a), wrong, n, m, count, mark)
+	}
 	if got, err := c.Do(a); got != want || err != nil {
 		t.Errorf("Do(%+v): got %q %v, want %q", short(a), got, err, want)
 	}
+	if n, _ := c.Mark(); again != (n == count) {
+		t.Errorf("Again(%+v): got %v, but %d were done behind %d", short(a), again, n, count)
+	}
 }
 
-// refuses asks that an error is told, and that the copy is just as it was.
+// refuses asks that an error is told, by Again, too, and that the copy is just as it was.
 func refuses(t *testing.T, c *mirror.Copy, a api.Ask, told api.Errno) {
 	t.Helper()
 	count, mark := c.Mark()
 	all := c.Space()
+	if got, err := c.Again(a); got || plain.Told(err) != told {
+		t.Errorf("Again(%+v): got %v %v, want %v", short(a), got, err, told)
+	}
 	if got, err := c.Do(a); got != "" || plain.Told(err) != told {
 		t.Errorf("Do(%+v): got %q %v, want %v", short(a), got, err, told)
 	}
